@@ -807,106 +807,40 @@ func TestP45LengthIsTheNumberOfDepths(t *testing.T) {
 	}
 }
 
-// listCalls are calls of all functions that return pieces, with arguments for which they succeed and fail.
-func listCalls() map[string]func(core []impl.Piece) ([]impl.Piece, bool) {
-	calls := map[string]func(core []impl.Piece) ([]impl.Piece, bool){
-		"CoreGaps": func(core []impl.Piece) ([]impl.Piece, bool) { return impl.CoreGaps(core), true },
-		"CoreJoin": impl.CoreJoin,
+// asPieces tells numbers as a list of pieces.
+func asPieces(numbers ...int) []impl.Piece {
+	list := []impl.Piece{}
+	for _, n := range numbers {
+		list = append(list, piece(n, n))
+	}
+	return list
+}
+
+// coreMemory has calls of all functions with cores, with arguments for which they succeed and fail.
+func coreMemory(lists [][]impl.Piece) memoryCheck[impl.Piece] {
+	calls := map[string]listCall[impl.Piece]{
+		"CoreValid":  func(core []impl.Piece) ([]impl.Piece, bool) { return nil, impl.CoreValid(core) },
+		"CoreLength": func(core []impl.Piece) ([]impl.Piece, bool) { return asPieces(impl.CoreLength(core)), true },
+		"CoreGaps":   func(core []impl.Piece) ([]impl.Piece, bool) { return impl.CoreGaps(core), true },
+		"CoreJoin":   impl.CoreJoin,
 	}
 	for _, d := range []int{-1, 0, 1, 2, 3, 5, 10, 100, 15001, 29998, 29999, deepest} {
+		calls["CoreHas of "+strconv.Itoa(d)] = func(core []impl.Piece) ([]impl.Piece, bool) { return asPieces(impl.CoreHas(core, d)), true }
 		calls["CoreCut at "+strconv.Itoa(d)] = func(core []impl.Piece) ([]impl.Piece, bool) { return impl.CoreCut(core, d) }
 		calls["CoreBetween up to "+strconv.Itoa(d)] = func(core []impl.Piece) ([]impl.Piece, bool) { return impl.CoreBetween(core, 0, d) }
 		calls["CoreBetween from "+strconv.Itoa(d)] = func(core []impl.Piece) ([]impl.Piece, bool) { return impl.CoreBetween(core, d, deepest) }
 	}
-	return calls
+	return memoryCheck[impl.Piece]{lists, calls, spoiled, namedCore}
 }
 
-// guarded returns a copy of a list with more memory behind it, and all this memory.
-func guarded(list []impl.Piece) ([]impl.Piece, []impl.Piece) {
-	memory := slices.Concat(list, slices.Repeat([]impl.Piece{spoiled}, 5))
-	return memory[:len(list)], memory
+func TestCoreFunctionsWriteNothing(t *testing.T) {
+	coreMemory(append(sampleCores(), noCores()...)).wantNothingWritten(t)
 }
 
-func TestNoFunctionWritesIntoItsArgument(t *testing.T) {
-	calls := listCalls()
-	for _, list := range append(sampleCores(), noCores()...) {
-		core, memory := guarded(list)
-		before := slices.Clone(memory)
-		check := func(name string) {
-			if !slices.Equal(memory, before) {
-				t.Fatalf("%s changed its argument %s to %s", name, namedCore(before), namedCore(memory))
-			}
-		}
-		impl.CoreValid(core)
-		check("CoreValid")
-		impl.CoreLength(core)
-		check("CoreLength")
-		for _, d := range []int{-1, 0, 3, deepest} {
-			impl.CoreHas(core, d)
-			check("CoreHas")
-		}
-		for name, call := range calls {
-			call(core)
-			check(name)
-		}
-	}
+func TestCoreFunctionsShareNothing(t *testing.T) {
+	coreMemory(append(sampleCores(), noCores()[:30]...)).wantNothingShared(t)
 }
 
-// TestResultsShareNoMemory writes over all the memory of each result in turn, and then over that of the argument.
-func TestResultsShareNoMemory(t *testing.T) {
-	type kept struct {
-		name      string
-		got, want []impl.Piece
-	}
-	calls := listCalls()
-	for _, list := range append(sampleCores(), noCores()[:30]...) {
-		core, memory := guarded(list)
-		before := slices.Clone(memory)
-		results := []kept{}
-		for name, call := range calls {
-			for range 2 {
-				got, _ := call(core)
-				results = append(results, kept{name, got, slices.Clone(got)})
-			}
-		}
-		for i, r := range results {
-			all := r.got[:cap(r.got)]
-			for k := range all {
-				all[k] = spoiled
-			}
-			if !slices.Equal(memory, before) {
-				t.Fatalf("the result of %s of %s shares memory with its argument", r.name, namedCore(list))
-			}
-			// The results ahead are written over already.
-			for _, other := range results[i+1:] {
-				if !slices.Equal(other.got, other.want) {
-					t.Fatalf("the results of %s and %s of %s share memory", r.name, other.name, namedCore(list))
-				}
-			}
-		}
-		for _, r := range results {
-			again, _ := calls[r.name](core)
-			wantCore(t, r.name+" of "+namedCore(list)+" once more", again, true, r.want, true)
-			for k := range memory {
-				memory[k] = spoiled
-			}
-			wantCore(t, r.name+" of "+namedCore(list)+" behind a change of the argument", again, true, r.want, true)
-			copy(memory, before)
-		}
-	}
-}
-
-// TestTheMemoryBehindAListDoesNotMatter calls with lists that have valid pieces behind their ends.
-func TestTheMemoryBehindAListDoesNotMatter(t *testing.T) {
-	calls := listCalls()
-	forPlaces(func(core []impl.Piece, first []impl.Piece, others []impl.Piece) {
-		alone, behind := slices.Clip(slices.Clone(first)), slices.Clone(others)
-		wantNumber(t, namedCall("CoreLength", first), impl.CoreLength(first), impl.CoreLength(alone))
-		for name, call := range calls {
-			want, wantOk := call(alone)
-			got, ok := call(first)
-			wantCore(t, name+" of "+namedCore(first), got, ok, want, wantOk)
-			wantCore(t, "behind the list, once "+name+" was called, the memory", others, true, behind, true)
-		}
-	})
+func TestCoreFunctionsReadNothingBehindAList(t *testing.T) {
+	coreMemory(sampleCores()).wantNothingReadBehind(t)
 }
