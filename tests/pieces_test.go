@@ -131,14 +131,18 @@ func nearDepths(core []impl.Piece) []int {
 	return slices.Compact(list)
 }
 
-// fewDepths returns as many of a list of depths as a test of all threes of them has time for.
-func fewDepths(core []impl.Piece) []int {
-	list := nearDepths(core)
+// thinned returns about a number of elements of a list, from all over it, or all of a shorter one.
+func thinned(list []int, number int) []int {
 	few := []int{}
-	for i := 0; i < len(list); i += 1 + len(list)/12 {
+	for i := 0; i < len(list); i += 1 + len(list)/number {
 		few = append(few, list[i])
 	}
-	return append(few, deepest)
+	return few
+}
+
+// fewDepths returns as many of a list of depths as a test of all threes of them has time for.
+func fewDepths(core []impl.Piece) []int {
+	return slices.Compact(append(thinned(nearDepths(core), 12), deepest))
 }
 
 // forCores calls a check with each of the sample cores.
