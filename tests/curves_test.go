@@ -6,7 +6,6 @@ import (
 	"math/rand/v2"
 	"slices"
 	"strconv"
-	"strings"
 	"testing"
 
 	"loop.example/icecores/impl"
@@ -44,38 +43,13 @@ func wholeLine() []impl.Knot {
 	return curveOf(0, 0, deepest, deepest)
 }
 
-// opposed returns the knots in the opposite order.
-func opposed(c []impl.Knot) []impl.Knot {
-	c = slices.Clone(c)
-	slices.Reverse(c)
-	return c
-}
-
-// withKnot returns the knots with another one at an index.
-func withKnot(c []impl.Knot, i int, k impl.Knot) []impl.Knot {
-	c = slices.Clone(c)
-	c[i] = k
-	return c
-}
-
 func namedCurve(c []impl.Knot) string {
-	if len(c) > 5*mostKnots {
-		return "[" + strconv.Itoa(len(c)) + " knots]"
-	}
-	texts := []string{}
-	for _, k := range c {
-		texts = append(texts, strconv.Itoa(k.X)+","+strconv.Itoa(k.Y))
-	}
-	return "[" + strings.Join(texts, " ") + "]"
+	return listText(c, 5*mostKnots, "knots", func(k impl.Knot) string { return strconv.Itoa(k.X) + "," + strconv.Itoa(k.Y) })
 }
 
 // namedOn returns the text of a call with a curve and numbers.
 func namedOn(name string, c []impl.Knot, numbers ...int) string {
-	s := name + "(" + namedCurve(c)
-	for _, n := range numbers {
-		s += ", " + strconv.Itoa(n)
-	}
-	return s + ")"
+	return callText(name, namedCurve(c), numbers...)
 }
 
 func namedThen(a []impl.Knot, b []impl.Knot, x int) string {
@@ -180,11 +154,11 @@ func noCurves() [][]impl.Knot {
 	for _, c := range [][]impl.Knot{curveOf(0, 0, 10, 10), curveOf(0, 0, 4, 4, 10, 10), lineOf(mostKnots, knot(0, 0), 10, 20)} {
 		for i := range c {
 			for _, k := range badKnots() {
-				list = append(list, withKnot(c, i, k))
+				list = append(list, replaced(c, i, k))
 			}
 			list = append(list, slices.Insert(slices.Clone(c), i, c[i]))
 		}
-		list = append(list, opposed(c))
+		list = append(list, inOppositeOrder(c))
 	}
 	return list
 }
@@ -737,7 +711,7 @@ func TestP46FirstKnotsAreACurve(t *testing.T) {
 		for k := range len(c) + 1 {
 			wantCurveValid(t, c[:k], k >= 2)
 		}
-		wantCurveValid(t, opposed(c), false)
+		wantCurveValid(t, inOppositeOrder(c), false)
 		wantCurveValid(t, slices.Concat(c[:1], c), false)
 	})
 }

@@ -4,7 +4,6 @@ import (
 	"math"
 	"slices"
 	"strconv"
-	"strings"
 	"testing"
 
 	"loop.example/icecores/impl"
@@ -42,23 +41,12 @@ func rowOf(number int, top int, length int, gap int) []impl.Piece {
 }
 
 func namedCore(core []impl.Piece) string {
-	if len(core) > 5*mostPieces {
-		return "[" + strconv.Itoa(len(core)) + " pieces]"
-	}
-	texts := []string{}
-	for _, p := range core {
-		texts = append(texts, strconv.Itoa(p.Top)+"-"+strconv.Itoa(p.Bottom))
-	}
-	return "[" + strings.Join(texts, " ") + "]"
+	return listText(core, 5*mostPieces, "pieces", func(p impl.Piece) string { return strconv.Itoa(p.Top) + "-" + strconv.Itoa(p.Bottom) })
 }
 
 // namedCall returns the text of a call with a core and depths.
 func namedCall(name string, core []impl.Piece, depths ...int) string {
-	s := name + "(" + namedCore(core)
-	for _, d := range depths {
-		s += ", " + strconv.Itoa(d)
-	}
-	return s + ")"
+	return callText(name, namedCore(core), depths...)
 }
 
 // coresWithin returns all cores with depths from a first to a last one.

@@ -63,9 +63,10 @@ func recordOf(edges []int, amounts ...int) record {
 	return record{edges, amounts}
 }
 
-func replaced(list []int, i int, n int) []int {
+// replaced returns a list with another element at an index.
+func replaced[T any](list []T, i int, x T) []T {
 	list = slices.Clone(list)
-	list[i] = n
+	list[i] = x
 	return list
 }
 

@@ -15,11 +15,11 @@ const mostPasses = 8
 // spoiledRowNumber is no number of a row; the tests write it over memory that no function may use.
 const spoiledRowNumber = mostAmount + 7
 
-// inOppositeOrder returns a row from its last number on.
-func inOppositeOrder(row []int) []int {
-	row = slices.Clone(row)
-	slices.Reverse(row)
-	return row
+// inOppositeOrder returns a list from its last element on.
+func inOppositeOrder[T any](list []T) []T {
+	list = slices.Clone(list)
+	slices.Reverse(list)
+	return list
 }
 
 // multiplied returns a row with all its numbers multiplied.
@@ -211,11 +211,7 @@ func allEqual(row []int) bool {
 
 // onRow returns the text of a call with a row and other numbers.
 func onRow(name string, row []int, others ...int) string {
-	s := name + "(" + namedInts(row)
-	for _, n := range others {
-		s += ", " + fmt.Sprint(n)
-	}
-	return s + ")"
+	return callText(name, namedInts(row), others...)
 }
 
 func wantRow(t *testing.T, call string, got []int, ok bool, want []int, wantOk bool) {
