@@ -120,8 +120,8 @@ func nearDepths(core []impl.Piece) []int {
 }
 
 // thinned returns about a number of elements of a list, from all over it, or all of a shorter one.
-func thinned(list []int, number int) []int {
-	few := []int{}
+func thinned[T any](list []T, number int) []T {
+	few := []T{}
 	for i := 0; i < len(list); i += 1 + len(list)/number {
 		few = append(few, list[i])
 	}

@@ -128,10 +128,17 @@ func noRows() [][]int {
 		equalRow(mostBins+1, 0), equalRow(mostBins+1, mostAmount), equalRow(mostBins+1, mostAmount+1), mixedAmounts(mostBins + 1), equalRow(mostBins+2, 1), equalRow(2*mostBins, 1), equalRow(2*mostBins+1, 1), equalRow(1000, 0),
 	}
 	for _, row := range [][]int{{5}, {5, -5}, {0, 0, 0}, {1, 5, 0, -2}, equalRow(mostBins-1, 1), mixedAmounts(mostBins)} {
-		for i := range row {
-			for _, n := range numbersOutside() {
-				list = append(list, replaced(row, i, n))
-			}
+		list = append(list, spoiledAt(row, numbersOutside())...)
+	}
+	return list
+}
+
+// spoiledAt returns a row with each of its numbers in turn replaced by each of others.
+func spoiledAt(row []int, others []int) [][]int {
+	list := [][]int{}
+	for i := range row {
+		for _, n := range others {
+			list = append(list, replaced(row, i, n))
 		}
 	}
 	return list
@@ -139,12 +146,17 @@ func noRows() [][]int {
 
 // isRow tells by each number whether a list is a row.
 func isRow(list []int) bool {
+	return len(list) <= mostBins && allWithin(list, -mostAmount, mostAmount)
+}
+
+// allWithin tells by each number whether a list has numbers, and all of them are in a range.
+func allWithin(list []int, least int, greatest int) bool {
 	for _, n := range list {
-		if n < -mostAmount || n > mostAmount {
+		if n < least || n > greatest {
 			return false
 		}
 	}
-	return len(list) >= 1 && len(list) <= mostBins
+	return len(list) >= 1
 }
 
 // exactPass spreads each number: two parts of it stay in its place, and one moves to each side, or stays at an end.
