@@ -1108,15 +1108,7 @@ func eventMemory(lists [][]impl.Event) memoryCheck[impl.Event] {
 	calls := map[string]listCall[impl.Event]{"EventsValid": func(list []impl.Event) ([]impl.Event, bool) { return nil, impl.EventsValid(list) }}
 	other := sized(2, 1, 3, 500, 2)
 	for _, tolerance := range []int{-1, 0, 1, 7, biggest, biggest + 1} {
-		for name, both := range map[string]func(list []impl.Event) ([]impl.Event, []impl.Event){
-			"a list and another one":  func(list []impl.Event) ([]impl.Event, []impl.Event) { return list, other },
-			"another list and one":    func(list []impl.Event) ([]impl.Event, []impl.Event) { return other, list },
-			"a list and itself":       func(list []impl.Event) ([]impl.Event, []impl.Event) { return list, list },
-			"both halves":             func(list []impl.Event) ([]impl.Event, []impl.Event) { return list[:len(list)/2], list[len(list)/2:] },
-			"both halves exchanged":   func(list []impl.Event) ([]impl.Event, []impl.Event) { return list[len(list)/2:], list[:len(list)/2] },
-			"all and the first half":  func(list []impl.Event) ([]impl.Event, []impl.Event) { return list, list[:len(list)/2] },
-			"the second half and all": func(list []impl.Event) ([]impl.Event, []impl.Event) { return list[len(list)/2:], list },
-		} {
+		for name, both := range twoLists(other) {
 			name = " of " + name + " within " + strconv.Itoa(tolerance)
 			calls["MatchOk"+name] = func(list []impl.Event) ([]impl.Event, bool) {
 				a, b := both(list)
@@ -1178,18 +1170,11 @@ func TestEventFunctionsReadNothingBehindAList(t *testing.T) {
 	matchMemory(matchLists()).wantNothingReadBehind(t)
 }
 
-// TestMatchBestResultsShareNothing writes over all the memory of the result of one call and looks at those of others.
 func TestMatchBestResultsShareNothing(t *testing.T) {
 	forBestMatches(t, func(l eventLists, best []int) {
-		want := slices.Clone(best)
-		again, _ := impl.MatchBest(l.a, l.b, l.tolerance)
-		again = again[:cap(again)]
-		for i := range again {
-			again[i] = spoiledNumber
-		}
-		if !slices.Equal(best, want) {
-			t.Fatalf("two results of %s share memory", l.call("MatchBest"))
-		}
-		wantBestMatch(t, l, want, true)
+		wantApart(t, l.call("MatchBest"), spoiledNumber, func() []int {
+			match, _ := impl.MatchBest(l.a, l.b, l.tolerance)
+			return match
+		})
 	})
 }

@@ -23,8 +23,50 @@ func (m memoryCheck[T]) guarded(list []T) ([]T, []T) {
 }
 
 func (m memoryCheck[T]) spoil(memory []T) {
+	spoil(memory, m.spoiled)
+}
+
+// spoil writes a spoiled element over memory.
+func spoil[T any](memory []T, spoiled T) {
 	for i := range memory {
-		memory[i] = m.spoiled
+		memory[i] = spoiled
+	}
+}
+
+// twoLists returns ways to call a function of two lists with one: beside another list, twice, and with parts of it, which are in one memory, so that writing behind one of them is seen.
+func twoLists[T any](other []T) map[string]func(list []T) ([]T, []T) {
+	return map[string]func(list []T) ([]T, []T){
+		"a list and another one":  func(list []T) ([]T, []T) { return list, other },
+		"another list and one":    func(list []T) ([]T, []T) { return other, list },
+		"a list and itself":       func(list []T) ([]T, []T) { return list, list },
+		"both halves":             func(list []T) ([]T, []T) { return list[:len(list)/2], list[len(list)/2:] },
+		"both halves exchanged":   func(list []T) ([]T, []T) { return list[len(list)/2:], list[:len(list)/2] },
+		"all and the first half":  func(list []T) ([]T, []T) { return list, list[:len(list)/2] },
+		"the second half and all": func(list []T) ([]T, []T) { return list[len(list)/2:], list },
+	}
+}
+
+// wantApart calls each of some functions twice, writes over all the memory of each result in turn, and looks at the other results and at those of further calls.
+func wantApart[T comparable](t *testing.T, calls string, spoiled T, functions ...func() []T) {
+	t.Helper()
+	results, wants := [][]T{}, [][]T{}
+	for _, f := range slices.Concat(functions, functions) {
+		got := f()
+		results, wants = append(results, got), append(wants, slices.Clone(got))
+	}
+	for i, got := range results {
+		spoil(got[:cap(got)], spoiled)
+		// The results ahead are written over already.
+		for k := i + 1; k < len(results); k++ {
+			if !slices.Equal(results[k], wants[k]) {
+				t.Fatalf("two results of %s share memory", calls)
+			}
+		}
+	}
+	for i, f := range functions {
+		if !slices.Equal(f(), wants[i]) {
+			t.Fatalf("%s returned something else once more", calls)
+		}
 	}
 }
 
