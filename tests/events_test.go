@@ -46,19 +46,11 @@ func alikeEvents(number int, size int) []impl.Event {
 }
 
 func sizesOf(list []impl.Event) []int {
-	sizes := []int{}
-	for _, e := range list {
-		sizes = append(sizes, e.Size)
-	}
-	return sizes
+	return eachAs(list, func(e impl.Event) int { return e.Size })
 }
 
 func eventDepths(list []impl.Event) []int {
-	depths := []int{}
-	for _, e := range list {
-		depths = append(depths, e.Depth)
-	}
-	return depths
+	return eachAs(list, func(e impl.Event) int { return e.Depth })
 }
 
 func namedEvents(list []impl.Event) string {

@@ -75,11 +75,7 @@ func namedMerge(a []impl.Layer, b []impl.Layer) string {
 }
 
 func depthsOf(list []impl.Layer) []int {
-	depths := []int{}
-	for _, l := range list {
-		depths = append(depths, l.Depth)
-	}
-	return depths
+	return eachAs(list, func(l impl.Layer) int { return l.Depth })
 }
 
 func sureDepthsOf(list []impl.Layer) []int {
@@ -88,11 +84,7 @@ func sureDepthsOf(list []impl.Layer) []int {
 
 // moved returns the layers deeper by a number of millimeters, all sure or none.
 func moved(list []impl.Layer, deeper int, sure bool) []impl.Layer {
-	result := []impl.Layer{}
-	for _, l := range list {
-		result = append(result, layer(l.Depth+deeper, sure))
-	}
-	return result
+	return eachAs(list, func(l impl.Layer) impl.Layer { return layer(l.Depth+deeper, sure) })
 }
 
 // allAs returns the layers at the same depths, all sure or none.

@@ -70,6 +70,15 @@ func replaced[T any](list []T, i int, x T) []T {
 	return list
 }
 
+// eachAs returns what each element of a list is turned into.
+func eachAs[T any, U any](list []T, turn func(x T) U) []U {
+	result := []U{}
+	for _, x := range list {
+		result = append(result, turn(x))
+	}
+	return result
+}
+
 // steps returns a number of depths from a first one on in equal steps.
 func steps(number int, first int, step int) []int {
 	list := []int{}

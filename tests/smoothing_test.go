@@ -24,11 +24,7 @@ func inOppositeOrder[T any](list []T) []T {
 
 // multiplied returns a row with all its numbers multiplied.
 func multiplied(row []int, factor int) []int {
-	list := []int{}
-	for _, n := range row {
-		list = append(list, factor*n)
-	}
-	return list
+	return eachAs(row, func(n int) int { return factor * n })
 }
 
 // plus returns the sums of the numbers of two rows of one length, place by place.

@@ -29,29 +29,17 @@ func tiesAt(numbers ...int) []impl.Tie {
 
 // asTies returns the knots of a list as ties, X as A and Y as B.
 func asTies(c []impl.Knot) []impl.Tie {
-	list := []impl.Tie{}
-	for _, k := range c {
-		list = append(list, tie(k.X, k.Y))
-	}
-	return list
+	return eachAs(c, func(k impl.Knot) impl.Tie { return tie(k.X, k.Y) })
 }
 
 // allAsTies returns the knots of each list as ties.
 func allAsTies(lists [][]impl.Knot) [][]impl.Tie {
-	all := [][]impl.Tie{}
-	for _, c := range lists {
-		all = append(all, asTies(c))
-	}
-	return all
+	return eachAs(lists, asTies)
 }
 
 // knotsOf returns a knot for each tie.
 func knotsOf(list []impl.Tie) []impl.Knot {
-	c := []impl.Knot{}
-	for _, x := range list {
-		c = append(c, knot(x.A, x.B))
-	}
-	return c
+	return eachAs(list, func(x impl.Tie) impl.Knot { return knot(x.A, x.B) })
 }
 
 // tieLine returns a number of ties from a first one on in equal steps.
@@ -61,11 +49,7 @@ func tieLine(number int, first impl.Tie, stepA int, stepB int) []impl.Tie {
 
 // tiesTurned returns the list with A and B exchanged.
 func tiesTurned(list []impl.Tie) []impl.Tie {
-	result := []impl.Tie{}
-	for _, x := range list {
-		result = append(result, tie(x.B, x.A))
-	}
-	return result
+	return eachAs(list, func(x impl.Tie) impl.Tie { return tie(x.B, x.A) })
 }
 
 func namedTies(list []impl.Tie) string {
