@@ -46,6 +46,22 @@ func twoLists[T any](other []T) map[string]func(list []T) ([]T, []T) {
 	}
 }
 
+// wantApartInACall writes over all the memory of each of two results of one call, and looks at all the memory of the other one.
+func wantApartInACall[T comparable](t *testing.T, call string, spoiled T, a []T, b []T) {
+	t.Helper()
+	a, b = a[:cap(a)], b[:cap(b)]
+	wantA, wantB := slices.Clone(a), slices.Clone(b)
+	spoil(a, spoiled)
+	if !slices.Equal(b, wantB) {
+		t.Fatalf("the results of %s share memory", call)
+	}
+	copy(a, wantA)
+	spoil(b, spoiled)
+	if !slices.Equal(a, wantA) {
+		t.Fatalf("the results of %s share memory", call)
+	}
+}
+
 // wantApart calls each of some functions twice, writes over all the memory of each result in turn, and looks at the other results and at those of further calls.
 func wantApart[T comparable](t *testing.T, calls string, spoiled T, functions ...func() []T) {
 	t.Helper()
